@@ -8,15 +8,17 @@ import (
 )
 
 // builtIn is the classes that every hierarchy has, by their numbers. The super of java/lang/Object is never looked for: a class may have the empty name.
-var builtIn = [api.BuiltIn]api.Line{
-	api.ClObject:    {Name: "java/lang/Object", Super: ""},
-	api.ClThrowable: {Name: "java/lang/Throwable", Super: "java/lang/Object"},
-	api.ClArith:     {Name: "java/lang/ArithmeticException", Super: "java/lang/Throwable"},
-	api.ClNull:      {Name: "java/lang/NullPointerException", Super: "java/lang/Throwable"},
-	api.ClIndex:     {Name: "java/lang/ArrayIndexOutOfBoundsException", Super: "java/lang/Throwable"},
-	api.ClNegative:  {Name: "java/lang/NegativeArraySizeException", Super: "java/lang/Throwable"},
-	api.ClCast:      {Name: "java/lang/ClassCastException", Super: "java/lang/Throwable"},
-	api.ClStore:     {Name: "java/lang/ArrayStoreException", Super: "java/lang/Throwable"},
+func builtIn() []api.Line {
+	return []api.Line{
+		api.ClObject:    {Name: "java/lang/Object", Super: ""},
+		api.ClThrowable: {Name: "java/lang/Throwable", Super: "java/lang/Object"},
+		api.ClArith:     {Name: "java/lang/ArithmeticException", Super: "java/lang/Throwable"},
+		api.ClNull:      {Name: "java/lang/NullPointerException", Super: "java/lang/Throwable"},
+		api.ClIndex:     {Name: "java/lang/ArrayIndexOutOfBoundsException", Super: "java/lang/Throwable"},
+		api.ClNegative:  {Name: "java/lang/NegativeArraySizeException", Super: "java/lang/Throwable"},
+		api.ClCast:      {Name: "java/lang/ClassCastException", Super: "java/lang/Throwable"},
+		api.ClStore:     {Name: "java/lang/ArrayStoreException", Super: "java/lang/Throwable"},
+	}
 }
 
 // nameAll gives the classes their names and numbers; false, if two have the same name. No super is looked for ahead of that, as one may be the name of a later class.
