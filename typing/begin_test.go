@@ -112,3 +112,19 @@ func TestByHand(t *testing.T) {
 		}
 	}
 }
+
+// TestNoOperations has a method that does nothing at all: there is no first entry that would be known.
+func TestNoOperations(t *testing.T) {
+	p := linked(t)
+	p.Funcs = []api.Func{{Static: true, Stack: 1, Locals: 1}}
+	if at, e := typing.Wrong(p, 0, nil); at != 0 || e != api.ErrType || typing.Holds(p, 0, []api.Known{}) {
+		t.Error(at, e)
+	}
+	if at, e := typing.Wrong(p, 0, []api.Known{{Is: true}}); at != 0 || e != api.ErrArg {
+		t.Error(at, e)
+	}
+	holdNothing(t, p, 0, 0)
+	if s := typing.First(p, 0); !vtype.Same(s, shape("top", "")) {
+		t.Error(s)
+	}
+}
