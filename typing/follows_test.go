@@ -6,6 +6,7 @@ import (
 
 	"tabard/api"
 	"tabard/linker"
+	"tabard/sample"
 	"tabard/typing"
 	"tabard/vtype"
 )
@@ -13,7 +14,7 @@ import (
 // TestLessIsEnough is P12.6: of each operation, shapes that it takes, and such as fit these.
 func TestLessIsEnough(t *testing.T) {
 	m := meaning(world(t))
-	r := numbers(3)
+	r := numbers{3}
 	done, narrower := 0, 0
 	for f, fn := range m.p.Funcs {
 		if fn.Locals != 4 {
@@ -30,7 +31,7 @@ func TestLessIsEnough(t *testing.T) {
 					less := m.less(&r, s)
 					got, e := typing.Step(m.p, f, i, less)
 					if e != api.OK || len(got) != len(want) {
-						t.Error(linker.Name(m.p, f), i, text(s), text(less), e)
+						t.Error(linker.Name(m.p, f), i, sample.Text(s), sample.Text(less), e)
 						continue
 					}
 					done++
@@ -39,7 +40,7 @@ func TestLessIsEnough(t *testing.T) {
 					}
 					for k, x := range want {
 						if got[k].To != x.To || m.allValid(x.Shape) && !vtype.FitsAll(m.h, got[k].Shape, x.Shape) {
-							t.Error(linker.Name(m.p, f), i, text(got[k].Shape), "does not fit", text(x.Shape))
+							t.Error(linker.Name(m.p, f), i, sample.Text(got[k].Shape), "does not fit", sample.Text(x.Shape))
 						}
 					}
 				}
@@ -73,12 +74,12 @@ func (m *meant) allValid(s api.Shape) bool {
 
 // TestTopIsNotEnough is why P12.6 asks for a stack without a top: a long fits it, and is no single.
 func TestTopIsNotEnough(t *testing.T) {
-	p := linked(t, single("static f ()V", 2, 0, "pop | return")...)
-	f := named(t, p, "T.f()V")
-	if _, e := typing.Step(p, f, 0, shape("", "top")); e != api.OK {
+	p := sample.Link(sample.Single("static f ()V", 2, 0, "pop | return")...)
+	f := sample.Named(p, "T.f()V")
+	if _, e := typing.Step(p, f, 0, sample.Shape("", "top")); e != api.OK {
 		t.Error(e)
 	}
-	if _, e := typing.Step(p, f, 0, shape("", "long")); e != api.ErrType {
+	if _, e := typing.Step(p, f, 0, sample.Shape("", "long")); e != api.ErrType {
 		t.Error(e)
 	}
 }

@@ -7,17 +7,18 @@ import (
 	"testing"
 
 	"tabard/api"
+	"tabard/sample"
 	"tabard/typing"
 	"tabard/vtype"
 )
 
 // covered is a method whose operations are all covered by all handlers that may be; jumping is one of nothing but jumps.
-func covered() meth {
+func covered() sample.Method {
 	ops := strings.Repeat(" | nop", api.MaxCode-3)
-	return meth{what: "f (J)V", stack: 1, locals: api.MaxLocals, code: "a: nop" + ops + " | return | b: athrow", handlers: slices.Repeat([]string{"a end b F"}, api.MaxHandlers)}
+	return sample.Method{What: "f (J)V", Stack: 1, Locals: api.MaxLocals, Code: "a: nop" + ops + " | return | b: athrow", Handlers: slices.Repeat([]string{"a end b F"}, api.MaxHandlers)}
 }
 
-func jumping() meth {
+func jumping() sample.Method {
 	code := "iconst_0 | istore 3"
 	for i := range api.MaxCode/5 - 3 {
 		code += " | iload 3 | ifeq end" + strconv.Itoa(i%7)
@@ -25,18 +26,18 @@ func jumping() meth {
 	for i := range 7 {
 		code += " | end" + strconv.Itoa(i) + ": nop"
 	}
-	return meth{what: "g (J)V", stack: 1, locals: api.MaxLocals, code: code + " | return"}
+	return sample.Method{What: "g (J)V", Stack: 1, Locals: api.MaxLocals, Code: code + " | return"}
 }
 
 // TestLongest has methods that are as long as may be, in a program of as many classes as may be.
 func TestLongest(t *testing.T) {
-	l := append(family(), class{name: "T", methods: []meth{covered(), jumping()}})
+	l := append(sample.Family(), sample.Class{Name: "T", Methods: []sample.Method{covered(), jumping()}})
 	for i := len(l); i < api.MaxClasses-1; i++ {
-		l = append(l, class{name: "K" + strconv.Itoa(i) + ":C"})
+		l = append(l, sample.Class{Name: "K" + strconv.Itoa(i) + ":C"})
 	}
-	p := linked(t, l...)
+	p := sample.Link(l...)
 	for _, name := range []string{"T.f(J)V", "T.g(J)V"} {
-		f := named(t, p, name)
+		f := sample.Named(p, name)
 		table := make([]api.Known, len(p.Funcs[f].Ops))
 		table[0] = api.Known{Is: true, Shape: typing.First(p, f)}
 		for i := range table {
@@ -58,10 +59,10 @@ func TestLongest(t *testing.T) {
 
 // TestLongShapes has far more on the stack than a method may have, and names far longer.
 func TestLongShapes(t *testing.T) {
-	m := meaning(linked(t, single("static f ()V", 64, 1, "pop | dup | iadd | a: return", "a end a")...))
-	f := named(t, m.p, "T.f()V")
+	m := meaning(sample.Link(sample.Single("static f ()V", 64, 1, "pop | dup | iadd | a: return", "a end a")...))
+	f := sample.Named(m.p, "T.f()V")
 	const n = 1 << 20
-	s := api.Shape{Locals: typesOf("A"), Stack: slices.Repeat(typesOf("int A [LA;"), n)}
+	s := api.Shape{Locals: sample.Types("A"), Stack: slices.Repeat(sample.Types("int A [LA;"), n)}
 	for i := range m.p.Funcs[f].Ops {
 		want := api.ErrOver
 		if i == 2 {
@@ -85,14 +86,14 @@ func TestLongShapes(t *testing.T) {
 			t.Error(at, e)
 		}
 	}
-	long := api.Shape{Locals: slices.Repeat(typesOf("A"), n)}
+	long := api.Shape{Locals: slices.Repeat(sample.Types("A"), n)}
 	if _, e := typing.Step(m.p, f, 3, long); e != api.ErrArg {
 		t.Error(e)
 	}
 	if at, e := typing.Wrong(m.p, f, []api.Known{{Is: true, Shape: long}, {}, {}, {}}); at != 0 || e != api.ErrType {
 		t.Error(at, e)
 	}
-	if !vtype.Same(typing.First(m.p, f), shape("top", "")) {
+	if !vtype.Same(typing.First(m.p, f), sample.Shape("top", "")) {
 		t.Error("First")
 	}
 }

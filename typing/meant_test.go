@@ -7,6 +7,7 @@ import (
 	"tabard/api"
 	"tabard/hier"
 	"tabard/linker"
+	"tabard/sample"
 	"tabard/vtype"
 )
 
@@ -15,41 +16,6 @@ import (
 func top() api.Type         { return api.Type{Kind: api.TyTop} }
 func null() api.Type        { return api.Type{Kind: api.TyNull} }
 func ref(s string) api.Type { return api.Type{Kind: api.TyRef, Name: s} }
-
-// typed is the type of a text such as Text answers.
-func typed(s string) api.Type {
-	for kind, name := range []string{"top", "int", "long", "null"} {
-		if s == name {
-			return api.Type{Kind: kind}
-		}
-	}
-	return ref(s)
-}
-
-// typesOf is the types of texts with blanks between.
-func typesOf(s string) []api.Type {
-	var l []api.Type
-	for _, x := range strings.Fields(s) {
-		l = append(l, typed(x))
-	}
-	return l
-}
-
-// shape is the shape of two texts.
-func shape(locals, stack string) api.Shape {
-	return api.Shape{Locals: typesOf(locals), Stack: typesOf(stack)}
-}
-
-func text(s api.Shape) string {
-	var w []string
-	for _, l := range [][]api.Type{s.Locals, s.Stack} {
-		for _, t := range l {
-			w = append(w, vtype.Text(t))
-		}
-		w = append(w, "/")
-	}
-	return strings.Join(w, " ")
-}
 
 // rules are the document's of what hangs on the kind alone. <T is what fits T; a single, a reference, an array of ints, of longs, of references or of anything has a name behind a point; what is put is a type or such a name, and element of one is what stands in it. A word with an @ is asked of the local, or put from it; one with a ! becomes the local.
 func rules() map[int]string {
@@ -60,7 +26,7 @@ func rules() map[int]string {
 		api.KI2: "<int <int -> int", api.KL2: "<long <long -> long", api.KINeg: "<int -> int", api.KNarrow: "<int -> int", api.KLNeg: "<long -> long", api.KIShift: "<int <int -> int", api.KLShift: "<long <int -> long", api.KI2L: "<int -> long", api.KL2I: "<long -> int", api.KLCmp: "<long <long -> int",
 		api.KIf: "<int -> ", api.KIfI: "<int <int -> ", api.KIfA: "reference.a reference.b -> ", api.KIfNull: "reference.a -> ", api.KGoto: " -> ",
 		api.KLength: "array.a -> int", api.KIALoad: "ints.a <int -> int", api.KLALoad: "longs.a <int -> long", api.KAALoad: "references.a <int -> element.a", api.KIAStore: "ints.a <int <int -> ", api.KLAStore: "longs.a <int <long -> ", api.KAAStore: "references.a <int reference.b -> ",
-		api.KThrow: "<" + throwable + " -> ", api.KIs: "reference.a -> int", api.KOut: "<int -> ", api.KOutL: "<long -> ", api.KIn: " -> int",
+		api.KThrow: "<" + sample.Throwable + " -> ", api.KIs: "reference.a -> int", api.KOut: "<int -> ", api.KOutL: "<long -> ", api.KIn: " -> int",
 	}
 }
 
@@ -118,9 +84,9 @@ func meaning(p api.Program) *meant {
 // such tells whether a type is what a word asks for.
 func (m *meant) such(t api.Type, word string) bool {
 	if s, is := strings.CutPrefix(word, "<"); is {
-		return vtype.Fits(m.h, t, typed(s))
+		return vtype.Fits(m.h, t, sample.Type(s))
 	}
-	sort, _ := split(word, ".", "")
+	sort, _, _ := strings.Cut(word, ".")
 	if t == null() && sort != "single" {
 		return true
 	}
@@ -178,7 +144,7 @@ func (m *meant) behind(rule string, local int, s api.Shape) (api.Shape, api.Errn
 		if !m.such(after.Stack[n], w) {
 			return after, api.ErrType
 		}
-		_, name := split(w, ".", "")
+		_, name, _ := strings.Cut(w, ".")
 		names[name] = after.Stack[n]
 		after.Stack = after.Stack[:n]
 	}
@@ -186,7 +152,7 @@ func (m *meant) behind(rule string, local int, s api.Shape) (api.Shape, api.Errn
 		name, is := strings.CutPrefix(w, "!")
 		t, named := names[name]
 		if !named {
-			t = typed(name)
+			t = sample.Type(name)
 		}
 		if is {
 			if local > 0 && after.Locals[local-1].Kind == api.TyLong {
@@ -201,7 +167,7 @@ func (m *meant) behind(rule string, local int, s api.Shape) (api.Shape, api.Errn
 		if sort, is := strings.CutPrefix(w, "@"); is {
 			sort, asked := strings.CutSuffix(sort, "!")
 			t = s.Locals[local]
-			if sort == "reference" && !m.such(t, sort) || sort != "reference" && t != typed(sort) {
+			if sort == "reference" && !m.such(t, sort) || sort != "reference" && t != sample.Type(sort) {
 				return after, api.ErrVar
 			}
 			if asked {
@@ -252,7 +218,7 @@ func (m *meant) takes(f, i int) ([]api.Type, bool) {
 		if !is {
 			return nil, false
 		}
-		l = append(l, typed(s))
+		l = append(l, sample.Type(s))
 	}
 	slices.Reverse(l)
 	return l, true

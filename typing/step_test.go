@@ -8,6 +8,7 @@ import (
 
 	"tabard/api"
 	"tabard/linker"
+	"tabard/sample"
 	"tabard/typing"
 	"tabard/vtype"
 )
@@ -19,7 +20,7 @@ func holdStep(t *testing.T, m *meant, f, i int, s api.Shape) api.Errno {
 	got, e := typing.Step(m.p, f, i, s)
 	want, err := m.step(f, i, s)
 	if e != err || !sameFlows(got, want) {
-		t.Error(linker.Name(m.p, f), i, text(s), got, e, "not", want, err)
+		t.Error(linker.Name(m.p, f), i, sample.Text(s), got, e, "not", want, err)
 	}
 	if !vtype.Same(s, kept) {
 		t.Error("written to", linker.Name(m.p, f), i)
@@ -27,19 +28,22 @@ func holdStep(t *testing.T, m *meant, f, i int, s api.Shape) api.Errno {
 	return e
 }
 
+// numbers tells types, too.
+type numbers struct{ sample.Numbers }
+
 // some is a list of types that look as if they were in no order.
 func (r *numbers) some(n int) []api.Type {
 	var l []api.Type
 	for range n {
-		l = append(l, sorts()[r.below(len(sorts()))])
+		l = append(l, sorts()[r.Below(len(sorts()))])
 	}
 	return l
 }
 
 // locals are four, such as operations ask for more often than not.
 func (r *numbers) locals() []api.Type {
-	if r.below(2) == 0 {
-		return typesOf([]string{"int int long top", "long top A int", "int null null int", "long long long long", "top long top [I", "int A [LA; long"}[r.below(6)])
+	if r.Below(2) == 0 {
+		return sample.Types([]string{"int int long top", "long top A int", "int null null int", "long long long long", "top long top [I", "int A [LA; long"}[r.Below(6)])
 	}
 	return r.some(4)
 }
@@ -47,8 +51,8 @@ func (r *numbers) locals() []api.Type {
 // taken is a stack with what an operation takes, if there is such a type, and something below it.
 func (m *meant) taken(r *numbers, f, i int) []api.Type {
 	fn := m.p.Funcs[f]
-	l := r.some(r.below(3))
-	asks, _ := split(ruleOf(m.p, fn, fn.Ops[i]), "->", "")
+	l := r.some(r.Below(3))
+	asks, _, _ := strings.Cut(ruleOf(m.p, fn, fn.Ops[i]), "->")
 	for _, w := range strings.Fields(asks) {
 		var may []api.Type
 		for _, t := range sorts() {
@@ -57,7 +61,7 @@ func (m *meant) taken(r *numbers, f, i int) []api.Type {
 			}
 		}
 		if len(may) > 0 {
-			l = append(l, may[r.below(len(may))])
+			l = append(l, may[r.Below(len(may))])
 		}
 	}
 	return l
@@ -66,8 +70,8 @@ func (m *meant) taken(r *numbers, f, i int) []api.Type {
 // TestEach has each operation, with all stacks of at most two types, with what it takes, with one type of that changed, and with others.
 func TestEach(t *testing.T) {
 	m := meaning(world(t))
-	r := numbers(1)
-	f := named(t, m.p, "W0.every12()V")
+	r := numbers{1}
+	f := sample.Named(m.p, "W0.every12()V")
 	for i, x := range m.p.Funcs[f].Ops {
 		stacks := [][]api.Type{nil}
 		for _, a := range sorts() {
@@ -79,12 +83,12 @@ func TestEach(t *testing.T) {
 		for n := range 60 {
 			l := m.taken(&r, f, i)
 			stacks = append(stacks, l)
-			if k := r.below(4); n%2 == 0 && k < len(l) {
+			if k := r.Below(4); n%2 == 0 && k < len(l) {
 				l = slices.Clone(l)
 				l[len(l)-1-k] = r.some(1)[0]
 				stacks = append(stacks, l, l[:k])
 			}
-			stacks = append(stacks, r.some(3+r.below(9)))
+			stacks = append(stacks, r.some(3+r.Below(9)))
 		}
 		seen := map[api.Errno]int{}
 		for _, stack := range stacks {
@@ -101,7 +105,7 @@ func (m *meant) holdSeen(t *testing.T, f int, x api.Op, seen map[api.Errno]int) 
 	takes, never := rule[0] != ' ', x.Kind == api.KReturn && x.A != 0
 	for _, w := range strings.Fields(rule) {
 		s, is := strings.CutPrefix(w, "<")
-		never = never || is && !vtype.Valid(m.h, typed(s))
+		never = never || is && !vtype.Valid(m.h, sample.Type(s))
 	}
 	if seen[api.OK] == 0 != never || seen[api.ErrReturn] == 0 != (x.Kind != api.KReturn || x.A == 0) {
 		t.Error(x, seen)
@@ -114,7 +118,7 @@ func (m *meant) holdSeen(t *testing.T, f int, x api.Op, seen map[api.Errno]int) 
 // TestStacks has methods with all sorts of stacks and of what they return.
 func TestStacks(t *testing.T) {
 	m := meaning(world(t))
-	r := numbers(2)
+	r := numbers{2}
 	seen := map[api.Errno]int{}
 	for f, fn := range m.p.Funcs {
 		for i := range fn.Ops {
@@ -124,7 +128,7 @@ func TestStacks(t *testing.T) {
 					s.Locals = m.first(f).Locals
 				}
 				if n%6 == 0 {
-					s.Stack = r.some(r.below(8))
+					s.Stack = r.some(r.Below(8))
 				}
 				seen[holdStep(t, m, f, i, s)]++
 			}
@@ -140,9 +144,9 @@ func TestStacks(t *testing.T) {
 // TestNone has methods, places and shapes that may not be.
 func TestNone(t *testing.T) {
 	m := meaning(world(t))
-	f := named(t, m.p, "W0.every12()V")
+	f := sample.Named(m.p, "W0.every12()V")
 	far := []int{math.MinInt, -1 << 32, math.MinInt32, -2, -1, 1 << 16, math.MaxInt32, 1 << 32, math.MaxInt}
-	right := shape("int int int int", "")
+	right := sample.Shape("int int int int", "")
 	for _, n := range append(far, len(m.p.Funcs), len(m.p.Funcs)+1) {
 		holdStep(t, m, n, 0, right)
 		holdNothing(t, m.p, n, 0)
@@ -159,10 +163,10 @@ func TestNone(t *testing.T) {
 	}
 	holdNothing(t, api.Program{}, 0, 0)
 	for _, x := range []struct{ locals, stack string }{
-		{"", ""}, {"int", ""}, {"int int int", ""}, {"int int int int int", ""}, {"int int int X", ""}, {"X int int int", ""}, {"int int int int", "X"}, {"int int int int", "[LX; int"}, {"int int int int", "[[LX;"}, {"int [ int int", ""}, {"int int [V int", ""}, {"int int int int", dims(17) + "I"}, {"int int int int", "main"}, {"int int int int", "LA;"},
+		{"", ""}, {"int", ""}, {"int int int", ""}, {"int int int int int", ""}, {"int int int X", ""}, {"X int int int", ""}, {"int int int int", "X"}, {"int int int int", "[LX; int"}, {"int int int int", "[[LX;"}, {"int [ int int", ""}, {"int int [V int", ""}, {"int int int int", sample.Dims(17) + "I"}, {"int int int int", "main"}, {"int int int int", "LA;"},
 	} {
 		for i := range m.p.Funcs[f].Ops {
-			if e := holdStep(t, m, f, i, shape(x.locals, x.stack)); e != api.ErrArg {
+			if e := holdStep(t, m, f, i, sample.Shape(x.locals, x.stack)); e != api.ErrArg {
 				t.Error(x, i, e)
 			}
 		}
@@ -191,7 +195,7 @@ func TestNone(t *testing.T) {
 // holdNothing has Step and Takes of what there is not.
 func holdNothing(t *testing.T, p api.Program, f, i int) {
 	t.Helper()
-	if l, e := typing.Step(p, f, i, shape("int int int int", "")); l != nil || e != api.ErrArg {
+	if l, e := typing.Step(p, f, i, sample.Shape("int int int int", "")); l != nil || e != api.ErrArg {
 		t.Error("Step", f, i, l, e)
 	}
 	if l, is := typing.Takes(p, f, i); l != nil || is {

@@ -6,36 +6,19 @@ import (
 
 	"tabard/api"
 	"tabard/linker"
+	"tabard/sample"
 	"tabard/typing"
 	"tabard/vtype"
 )
 
-// right are methods that keep the rules, each with what it shows.
-func right() []meth {
-	return []meth{
-		{what: "static loop ()I", stack: 1, locals: 2, code: "iconst_5 | istore 0 | top: iload 0 | ifeq out | iload 0 | istore 1 | iinc 0 -1 | goto top | out: iload 0 | ireturn"},
-		{what: "static caught (I)I", stack: 2, locals: 2, code: "a: iconst_1 | iload 0 | idiv | b: ireturn | c: astore 1 | iconst_0 | ireturn", handlers: []string{"a b c java/lang/ArithmeticException", "a end c"}},
-		{what: "static joined (I)LC;", stack: 1, locals: 2, code: "iload 0 | ifeq b | new A | astore 1 | goto c | b: new B | astore 1 | c: aload 1 | areturn"},
-		{what: "static arrays (I)J", stack: 4, locals: 3, code: "aconst_null | astore 1 | top: iload 0 | anewarray [J | astore 1 | aload 1 | iload 0 | iload 0 | newarray 11 | aastore | aload 1 | iload 0 | aaload | dup | astore 2 | iload 0 | laload | l2i | ifeq top | aload 2 | arraylength | i2l | lreturn"},
-		{what: "static longs (JJ)J", stack: 6, locals: 6, code: "lload 0 | lload 2 | ladd | lstore 1 | lload 1 | lconst_1 | lcmp | ifeq x | iconst_2 | istore 2 | x: ldc2_w 7 | iconst_3 | lshl | lstore 4 | lload 4 | lreturn"},
-		{what: "static dead ()V", stack: 2, locals: 1, code: "goto out | iadd | top: pop | iload 0 | goto top | out: return"},
-		{what: "static thrown (LE;)V", stack: 2, locals: 2, code: "a: aload 0 | athrow | c: athrow | b: pop | return", handlers: []string{"a c b F", "a b c"}},
-		{what: "static round ()V", stack: 1, locals: 1, code: "a: new F | astore 0 | aconst_null | athrow | b: astore 0 | goto a", handlers: []string{"a end b"}},
-		{what: "v (JLA;)LC;", stack: 5, locals: 4, code: "aload 0 | lload 1 | aload 3 | invokevirtual A.v (JLA;)LC; | dup | checkcast A | getfield A.j J | lstore 1 | areturn"},
-		{what: "static swapped (LA;LB;)I", stack: 4, locals: 3, code: "aload 0 | aload 1 | top: swap | dup_x1 | ifnull x | dup | instanceof B | ifeq y | x: pop | pop | iconst_0 | ireturn | y: swap | pop | iconst_1 | ireturn"},
-		{what: "static alone ()V", code: "return"}, {what: "static ever ()V", locals: 3, code: "a: goto a"},
-		{what: "static stat ()V", stack: 2, locals: 0, code: "getstatic S.as [LA; | iconst_0 | aaload | getfield A.c LC; | putstatic S.o Ljava/lang/Object; | return"},
-	}
-}
-
 // tables are methods in a class R, and the least table of each, found by the plainest walk.
 func tables(t *testing.T) (*meant, map[int][]api.Known) {
 	t.Helper()
-	m := meaning(linked(t, append(family(), class{name: "R:A", methods: right()})...))
+	m := meaning(sample.Link(append(sample.Family(), sample.Class{Name: "R:A", Methods: sample.Right()})...))
 	all := map[int][]api.Known{}
-	for _, x := range right() {
-		_, name, desc := member(x.what)
-		f := named(t, m.p, "R."+name+desc)
+	for _, x := range sample.Right() {
+		_, name, desc := sample.Member(x.What)
+		f := sample.Named(m.p, "R."+name+desc)
 		all[f] = m.least(t, f)
 	}
 	return m, all
@@ -53,7 +36,7 @@ func (m *meant) least(t *testing.T, f int) []api.Known {
 			}
 			l, e := m.step(f, i, k.Shape)
 			if e != api.OK {
-				t.Fatal(linker.Name(m.p, f), i, text(k.Shape), e)
+				t.Fatal(linker.Name(m.p, f), i, sample.Text(k.Shape), e)
 			}
 			for _, x := range l {
 				s, is := x.Shape, true
@@ -156,7 +139,7 @@ func put(l []api.Type, n int, t api.Type) {
 // TestChangedMore has many things changed at once, most of them so that less is known.
 func TestChangedMore(t *testing.T) {
 	m, all := tables(t)
-	r := numbers(7)
+	r := numbers{7}
 	held := 0
 	for f := range m.p.Funcs {
 		table := all[f]
@@ -165,15 +148,15 @@ func TestChangedMore(t *testing.T) {
 				break
 			}
 			l := cloneTable(table)
-			for range 1 + r.below(4) {
-				k := &l[r.below(len(l))]
+			for range 1 + r.Below(4) {
+				k := &l[r.Below(len(l))]
 				for i := range k.Shape.Locals {
-					if r.below(3) == 0 {
+					if r.Below(3) == 0 {
 						k.Shape.Locals[i] = m.wider(&r, k.Shape.Locals[i])
 					}
 				}
 				for i := range k.Shape.Stack {
-					if r.below(9) == 0 {
+					if r.Below(9) == 0 {
 						k.Shape.Stack[i] = m.wider(&r, k.Shape.Stack[i])
 					}
 				}
@@ -232,7 +215,7 @@ func TestClosed(t *testing.T) {
 // TestWrongFirst has lengths that are none, the beginning, and two places with faults.
 func TestWrongFirst(t *testing.T) {
 	m, all := tables(t)
-	loop, thrown, alone := named(t, m.p, "R.loop()I"), named(t, m.p, "R.thrown(LE;)V"), named(t, m.p, "R.alone()V")
+	loop, thrown, alone := sample.Named(m.p, "R.loop()I"), sample.Named(m.p, "R.thrown(LE;)V"), sample.Named(m.p, "R.alone()V")
 	wrong := func(f int, l []api.Known, at int, e api.Errno) {
 		t.Helper()
 		if got, err := typing.Wrong(m.p, f, l); got != at || err != e {
@@ -253,26 +236,26 @@ func TestWrongFirst(t *testing.T) {
 	wrong(loop, make([]api.Known, len(table)), 0, api.ErrType)
 	wrong(loop, changed(loop, func(l []api.Known) { l[0].Is = false }), 0, api.ErrType)
 	wrong(loop, changed(loop, func(l []api.Known) { l[0].Shape.Locals[0] = api.Type{Kind: api.TyInt} }), 0, api.ErrType)
-	wrong(loop, changed(loop, func(l []api.Known) { l[0].Shape.Stack = typesOf("int") }), 0, api.ErrType)
+	wrong(loop, changed(loop, func(l []api.Known) { l[0].Shape.Stack = sample.Types("int") }), 0, api.ErrType)
 	wrong(thrown, changed(thrown, func(l []api.Known) { l[0].Shape.Locals[0] = ref("F") }), 0, api.ErrType)
 	wrong(thrown, changed(thrown, func(l []api.Known) { l[0].Shape.Locals[0] = ref("X") }), 0, api.ErrType)
-	wrong(thrown, changed(thrown, func(l []api.Known) { l[0].Shape.Locals[0] = ref(throwable) }), 0, api.ErrType) // its flow to the next one does not fit
+	wrong(thrown, changed(thrown, func(l []api.Known) { l[0].Shape.Locals[0] = ref(sample.Throwable) }), 0, api.ErrType) // its flow to the next one does not fit
 	// The first place, whatever its error: of what comes to it, ahead of its own.
 	wrong(loop, changed(loop, func(l []api.Known) { l[2].Shape.Locals[0] = ref("A") }), 1, api.ErrType)
 	wrong(loop, changed(loop, func(l []api.Known) { l[2].Shape.Locals[0] = top() }), 2, api.ErrVar)
 	wrong(loop, changed(loop, func(l []api.Known) { l[2].Shape.Locals[0] = top(); l[3].Shape.Stack = nil; l[5].Shape.Stack = nil }), 2, api.ErrVar)
-	wrong(loop, changed(loop, func(l []api.Known) { l[5].Shape.Stack = typesOf("top"); l[3].Is = false }), 2, api.ErrType)
+	wrong(loop, changed(loop, func(l []api.Known) { l[5].Shape.Stack = sample.Types("top"); l[3].Is = false }), 2, api.ErrType)
 	wrong(loop, changed(loop, func(l []api.Known) { l[8].Is = false; l[5].Shape.Stack = nil }), 3, api.ErrType)
-	wrong(loop, changed(loop, func(l []api.Known) { l[9].Shape.Stack = typesOf("top") }), 9, api.ErrType)
+	wrong(loop, changed(loop, func(l []api.Known) { l[9].Shape.Stack = sample.Types("top") }), 9, api.ErrType)
 	wrong(loop, changed(loop, func(l []api.Known) { l[9].Shape.Locals = nil }), 8, api.ErrType)
 	wrong(thrown, changed(thrown, func(l []api.Known) { l[3].Is = false }), 0, api.ErrType)
-	wrong(thrown, changed(thrown, func(l []api.Known) { l[2].Shape.Stack = typesOf("F") }), 0, api.ErrType)
+	wrong(thrown, changed(thrown, func(l []api.Known) { l[2].Shape.Stack = sample.Types("F") }), 0, api.ErrType)
 	// What is not known is not asked, whatever its shape.
-	dead := named(t, m.p, "R.dead()V")
+	dead := sample.Named(m.p, "R.dead()V")
 	l := cloneTable(all[dead])
 	for i := range l {
 		if !l[i].Is {
-			l[i].Shape = shape("X X X", "long")
+			l[i].Shape = sample.Shape("X X X", "long")
 		}
 	}
 	wrong(dead, l, 0, api.OK)
@@ -287,18 +270,18 @@ func TestWrongFirst(t *testing.T) {
 
 // TestArgsOfNoClass has a method that takes what there is not: no table of it holds.
 func TestArgsOfNoClass(t *testing.T) {
-	m := meaning(linked(t, single("static f (LX;)V", 1, 1, "return")...))
-	f := named(t, m.p, "T.f(LX;)V")
-	for _, s := range []string{"X", "top", "null", object} {
-		if at, e := typing.Wrong(m.p, f, []api.Known{{Is: true, Shape: shape(s, "")}}); at != 0 || e != api.ErrType {
+	m := meaning(sample.Link(sample.Single("static f (LX;)V", 1, 1, "return")...))
+	f := sample.Named(m.p, "T.f(LX;)V")
+	for _, s := range []string{"X", "top", "null", sample.Object} {
+		if at, e := typing.Wrong(m.p, f, []api.Known{{Is: true, Shape: sample.Shape(s, "")}}); at != 0 || e != api.ErrType {
 			t.Error(s, at, e)
 		}
 	}
 	// Nor does one hold in which such a thing is put.
-	m = meaning(linked(t, single("static f ()V", 1, 0, "getstatic S.x LX; | pop | return")...))
-	f = named(t, m.p, "T.f()V")
-	for _, s := range []string{"X", "top", object} {
-		table := []api.Known{{Is: true}, {Is: true, Shape: shape("", s)}, {Is: true}}
+	m = meaning(sample.Link(sample.Single("static f ()V", 1, 0, "getstatic S.x LX; | pop | return")...))
+	f = sample.Named(m.p, "T.f()V")
+	for _, s := range []string{"X", "top", sample.Object} {
+		table := []api.Known{{Is: true}, {Is: true, Shape: sample.Shape("", s)}, {Is: true}}
 		if at, e := typing.Wrong(m.p, f, table); at != 0 || e != api.ErrType {
 			t.Error(s, at, e)
 		}

@@ -6,6 +6,7 @@ import (
 
 	"tabard/api"
 	"tabard/linker"
+	"tabard/sample"
 	"tabard/typing"
 	"tabard/vtype"
 )
@@ -30,15 +31,15 @@ func TestTakesWords(t *testing.T) {
 		"nop, aconst_null, iconst_0, lconst_0, iload 0, lload 0, aload 0, iinc 0 1, goto a, getstatic S.x LX;, new A, invokestatic S.none ()V, invokestatic Sys.in ()I": "",
 		"istore 0, ineg, i2l, i2b, ifeq a, newarray 10, anewarray A, putstatic S.i I, invokestatic Sys.out (I)V, invokestatic S.i (I)I":                                 "int",
 		"lstore 0, lneg, l2i, putstatic S.j J, invokestatic Sys.outl (J)V":                                                                                              "long",
-		"iadd, ishl, if_icmpeq a": "int int", "ladd, lcmp": "long long", "lshl": "int long", "athrow": throwable, "putstatic S.x LX;": "X", "putstatic S.deep " + dims(17) + "J": dims(17) + "J",
+		"iadd, ishl, if_icmpeq a": "int int", "ladd, lcmp": "long long", "lshl": "int long", "athrow": sample.Throwable, "putstatic S.x LX;": "X", "putstatic S.deep " + sample.Dims(17) + "J": sample.Dims(17) + "J",
 		"getfield A.i I, getfield A.x LX;": "A", "getfield D.i I": "D", "putfield A.i I": "int A", "putfield D.j J": "long D", "putfield A.xs [LX;": "[LX; A",
-		"invokestatic S.mixed (I[JLA;J[LC;)[[I": "[LC; long A [J int", "invokestatic S.j (JI)J": "int long", "invokevirtual D.v (JLA;)LC;": "A long A", "invokespecial A.<init> (I)V": "int A", "invokevirtual A.w ()V": "A", "invokestatic S.x (I[LX;)[LX;": "[LX; int",
+		"invokestatic S.mixed (I[JLA;J[LC;)[[I": "[LC; long A [J int", "invokestatic S.j (JI)J": "int long", "invokevirtual D.v (JLA;)LC;": "A long A", "invokespecial A.<init> (I)V": "int A", "invokevirtual A.w ()V": "A", "invokestatic U.y (I[LX;)[LX;": "[LX; int",
 		"pop, dup, dup_x1, swap, astore 0, if_acmpeq a, ifnull a, iaload, laload, aaload, iastore, lastore, aastore, arraylength, checkcast A, instanceof A, invokespecial java/lang/Object.<init> ()V": "none",
 	} {
 		for op := range strings.SplitSeq(ops, ", ") {
-			p := linked(t, single("static f ()V", 0, 2, "a: "+op+" | return")...)
-			l, is := typing.Takes(p, named(t, p, "T.f()V"), 0)
-			if is != (want != "none") || is && !vtype.Same(api.Shape{Stack: l}, shape("", want)) || !is && l != nil {
+			p := sample.Link(append(sample.Single("static f ()V", 0, 2, "a: "+op+" | return"), sample.Odd())...)
+			l, is := typing.Takes(p, sample.Named(p, "T.f()V"), 0)
+			if is != (want != "none") || is && !vtype.Same(api.Shape{Stack: l}, sample.Shape("", want)) || !is && l != nil {
 				t.Error(op, l, is)
 			}
 			// What is answered is nobody else's.
@@ -50,10 +51,10 @@ func TestTakesWords(t *testing.T) {
 		}
 	}
 	// Of a return: the method's Ret, whatever that is, and of whatever sort the return is.
-	for ret, want := range map[string]string{"V": "top", "I": "int", "J": "long", "LX;": "X", "[LA;": "[LA;", dims(17) + "I": dims(17) + "I"} {
+	for ret, want := range map[string]string{"V": "top", "I": "int", "J": "long", "LX;": "X", "[LA;": "[LA;", sample.Dims(17) + "I": sample.Dims(17) + "I"} {
 		for op, takes := range map[string]string{"return": "", "ireturn": want, "lreturn": want, "areturn": want} {
-			p := linked(t, single("static f ()"+ret, 0, 0, op)...)
-			if l, is := typing.Takes(p, named(t, p, "T.f()"+ret), 0); !is || !vtype.Same(api.Shape{Stack: l}, shape("", takes)) {
+			p := sample.Link(sample.Single("static f ()"+ret, 0, 0, op)...)
+			if l, is := typing.Takes(p, sample.Named(p, "T.f()"+ret), 0); !is || !vtype.Same(api.Shape{Stack: l}, sample.Shape("", takes)) {
 				t.Error(op, ret, l, is)
 			}
 		}
