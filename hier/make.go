@@ -51,7 +51,7 @@ func (h *Hier) hangAll(lines []api.Line) bool {
 
 // orderAll goes down from the topmost class, and so finds depths and the order; false, if it has not come to all: each of the others stands on a ring, or under one.
 func (h *Hier) orderAll() bool {
-	h.order = []int{api.ClObject}
+	h.order = append(h.order, api.ClObject)
 	for i := 0; i < len(h.order); i++ {
 		n := h.order[i]
 		for _, sub := range h.classes[n].subs {

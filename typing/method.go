@@ -43,8 +43,16 @@ func (m *method) over(l ...api.Type) *hier.Hier {
 	return nil
 }
 
-func (m *method) valid(t api.Type) bool   { return vtype.Valid(m.over(t), t) }
-func (m *method) fits(a, b api.Type) bool { return vtype.Fits(m.over(a, b), a, b) }
+// isClass tells whether a type is a class's. Most types that are asked about are, and to look through the classes takes less time than to make the hierarchy.
+func (m *method) isClass(t api.Type) bool {
+	return isRef(t) && slices.ContainsFunc(m.program.Classes, func(c api.Klass) bool { return c.Name == t.Name })
+}
+
+func (m *method) valid(t api.Type) bool { return m.isClass(t) || vtype.Valid(m.over(t), t) }
+
+func (m *method) fits(a, b api.Type) bool {
+	return a == b && m.valid(a) || vtype.Fits(m.over(a, b), a, b)
+}
 
 // class is the type of a class.
 func (m *method) class(n int) api.Type { return ref(at(m.program.Classes, n).Name) }

@@ -15,7 +15,7 @@ func FitsAll(h *hier.Hier, a, b api.Shape) bool {
 
 // JoinAll is the least shape that both fit; false, if there is none whose stack is of use.
 func JoinAll(h *hier.Hier, a, b api.Shape) (api.Shape, bool) {
-	var s api.Shape
+	s := api.Shape{Locals: slices.Grow[[]api.Type](nil, len(a.Locals)), Stack: slices.Grow[[]api.Type](nil, len(a.Stack))}
 	local := func(x, y api.Type) bool {
 		s.Locals = append(s.Locals, Join(h, x, y))
 		return true
